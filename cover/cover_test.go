@@ -1165,6 +1165,53 @@ func TestAllAdded(t *testing.T) {
 	}
 }
 
+// mixed is a bag whose places are made of few stamps by chance, so that many a stamp is that of another thing than the element that a place tells.
+func mixed(d *dice) []api.Op {
+	var l []api.Op
+	for time := range uint32(9) {
+		for r := range uint8(2) {
+			id := by(time+2, r)
+			var p []api.Run
+			for t := range time + 1 {
+				if d.under(2) > 0 {
+					p = under(p, by(t+1, uint8(d.under(2))))
+				}
+			}
+			o := api.Op{Kind: uint8(1 + d.under(4)), Id: id, At: p}
+			switch o.Kind {
+			case 1:
+				o.At, o.Point = under(p, id), 97
+			case 2:
+				o.At = under(p, id)
+			}
+			if op.Check(o) == api.OK && d.under(3) > 0 {
+				l = append(l, o)
+			}
+		}
+	}
+	return l
+}
+
+// P14.1, P14.3: bags in which a stamp may be another thing's than the element that a place tells: what counts, and that it still does with content or a mark more.
+func TestMixedBags(t *testing.T) {
+	d := &dice{1}
+	moved, woken := 0, 0
+	for range 400 {
+		l := mixed(d)
+		asksAbout(t, l)
+		for i, o := range slices.Concat(about(l, 1), about(l, 2), about(l, 3)) {
+			if i%23 > 0 {
+				continue
+			}
+			n, m := stays(t, l, o)
+			moved, woken = moved+n, woken+m
+		}
+	}
+	if moved < 100 || woken < 500 {
+		t.Errorf("%d homed elsewhere, %d waited: too few to tell", moved, woken)
+	}
+}
+
 // memory is a bag's, with what lies around it: other operations, and, around each place, other runs.
 type memory struct {
 	ops    []api.Op
